@@ -327,3 +327,32 @@ func TestApart(t *testing.T) {
 		t.Error("a copy of one that is down")
 	}
 }
+
+// P2.3: what waits in a copy is its own, also what comes to it later.
+func TestCopiesWait(t *testing.T) {
+	s := made(t, 9)
+	for n := range 20 {
+		s.Write(0, n%9, full(byte(n)))
+		c := s.Copy()
+		s.Write(0, 8, full(100))
+		c.Write(0, 8, full(200))
+		x, _ := s.Read(0, 8)
+		y, _ := c.Read(0, 8)
+		if x != full(100) || y != full(200) || s.Waiting(0) != c.Waiting(0) {
+			t.Fatal("shared", n)
+		}
+	}
+}
+
+// P2.1
+func TestOneSector(t *testing.T) {
+	s := made(t, 1)
+	want(t, "write", s.Write(0, 0, full(1)), nil)
+	if s.Waiting(0) != 1 || s.Size(0) != 1 {
+		t.Error("one waits")
+	}
+	want(t, "flush", s.Flush(0), nil)
+	if s.Sure(0, 0) != full(1) {
+		t.Error("sure")
+	}
+}

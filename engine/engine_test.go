@@ -559,6 +559,44 @@ func TestDead(t *testing.T) {
 	}
 }
 
+// P23.1: the power goes at each step of a checkpoint's end.
+func TestDeadWithinACheckpoint(t *testing.T) {
+	for steps := range 8 {
+		s := formatted(t, 2, 9, 9, 9)
+		e := opened(t, s, commands)
+		did(t, e, put(0, 1, 5), engine.Reply{Out: 5, Seq: 1})
+		is(t, "begin", e.Begin(), nil)
+		s.Arm(steps)
+		done, err := e.Step(9)
+		if steps >= 6 {
+			if !done || err != nil {
+				t.Error("done", steps, err)
+			}
+			continue
+		}
+		is(t, "step", err, api.ErrDown)
+		if x := e.State(); done || x.Sweeping || x.Gen != 2 || !s.Down() {
+			t.Error(steps, x)
+		}
+		s.Crash()
+		_, err = e.Step(1)
+		is(t, "dead", err, api.ErrDown)
+		want := 1
+		if steps == 0 {
+			want = 0
+		}
+		if e := opened(t, s, commands); e.State().Last != want {
+			t.Error("opened", steps, e.State())
+		}
+	}
+}
+
+// P23.1
+func TestMostWorkers(t *testing.T) {
+	e := opened(t, formatted(t, 1, 9, 9), engine.Config{Workers: 64, Policy: api.Policy{Place: api.PlaceRoom}}, 63, 64)
+	did(t, e, put(0, 1, 5), engine.Reply{Out: 5, Seq: 1})
+}
+
 func random(r *rand.Rand) api.Program {
 	var c []api.Code
 	for range 1 + r.Intn(7) {

@@ -23,9 +23,6 @@ func Format(s *dev.Set, streams int) error {
 		return api.ErrState
 	}
 	text := store.New().Put()
-	if !image.Fits(s, len(text)) {
-		return api.ErrFull
-	}
 	d := disks{set: s}
 	return d.save(slot.Manifest{Gen: 1, Epoch: 1, Len: len(text), Heads: make([]int, streams)}, text)
 }

@@ -240,6 +240,13 @@ func TestSpans(t *testing.T) {
 	if x.Out != 0 || !slices.Equal(x.Foot.Spans, span(8, 98)) {
 		t.Error("own writes outside", x)
 	}
+	for n, c := range map[int]struct{ total, hi int }{1: {7, 2}, 2: {37, 3}, 3: {87, 5}, 4: {157, 7}, 5: {157 + 8, 8}, 6: {157 + 17, 9}, 7: {157 + 17, 9}} {
+		edges := []api.Code{set(1, 2), set(2, 7), put(1, 1, 2), put(2, 1, 2), set(1, 4), put(0, 1, 2), put(2, 1, 2), set(1, 8), put(1, 1, 1), set(1, 9), put(1, 1, 1), set(1, 10), put(1, 1, 1), set(1, 1), put(1, 1, 1), set(1, 2), set(2, 9)}
+		x = ran(t, view(), of(99, append(edges, sum(3, 1, 1, 2, n), out(3))...))
+		if x.Out != c.total || !slices.Equal(x.Foot.Spans, span(2, c.hi)) || x.Fuel != 19+min(n, 6) {
+			t.Error("own writes at the edges, and up to the last of them", n, x)
+		}
+	}
 	x = ran(t, view(), of(30, set(1, 1), set(2, 3), set(3, 4), set(4, 5), sum(5, 1, 1, 2, 9), sum(5, 1, 3, 4, 9), sum(5, 2, 3, 4, 9)))
 	if !slices.Equal(x.Foot.Spans, []api.Span{{Table: 1, Lo: 1, Hi: 5}, {Table: 2, Lo: 4, Hi: 5}}) {
 		t.Error("put together", x)

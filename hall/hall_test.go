@@ -162,6 +162,7 @@ func TestConfig(t *testing.T) {
 		}
 		return n
 	}
+	is(t, "config", h.Config(engine.Config{Workers: 64, Policy: api.Policy{Place: api.PlaceRoom}}), nil)
 	is(t, "config", h.Config(engine.Config{Workers: 1, Policy: api.Policy{Base: 5}}), nil)
 	h.Run(put(1, 1))
 	if commands() != 1 {

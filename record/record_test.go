@@ -49,7 +49,7 @@ func TestGood(t *testing.T) {
 		{Seq: 1}, {Seq: 1, Program: api.Program{Fuel: 5, Code: []api.Code{{Op: 15, A: 8}}}}, {Seq: 1, Program: small, Writes: []api.Write{put(0, 1, 1)}},
 		{Seq: 1, Program: small, Foot: api.Foot{Reads: []api.Key{key(0, 1), key(0, 1)}}}, {Seq: 1, Program: small, Foot: api.Foot{Writes: []api.Key{key(4, 1)}}},
 		{Seq: 1, Value: true, Program: small}, {Seq: 1, Value: true, Program: api.Program{Fuel: 1}}, {Seq: 1, Value: true, Program: api.Program{Code: small.Code}},
-		{Seq: 1, Value: true, Foot: f}, {Seq: 1, Value: true, Foot: api.Foot{Spans: []api.Span{{Lo: 2}}}}, {Seq: 1, Value: true, Foot: api.Foot{Writes: []api.Key{key(0, 1)}}, Writes: []api.Write{put(0, 1, 1)}},
+		{Seq: 1, Value: true, Foot: f}, {Seq: 1, Value: true, Foot: api.Foot{Reads: f.Reads}}, {Seq: 1, Value: true, Foot: api.Foot{Spans: []api.Span{{Lo: 2}}}}, {Seq: 1, Value: true, Foot: api.Foot{Writes: []api.Key{key(0, 1)}}, Writes: []api.Write{put(0, 1, 1)}},
 		{Seq: 1, Value: true, Writes: []api.Write{put(0, 1, 1), put(0, 1, 1)}}, {Seq: 1, Value: true, Writes: []api.Write{put(0, 2, 1), put(0, 1, 1)}}, {Seq: 1, Value: true, Writes: []api.Write{put(1, 2, 1), put(0, 3, 1)}},
 		{Seq: 1, Value: true, Writes: []api.Write{put(4, 1, 1)}}, {Seq: 1, Value: true, Writes: []api.Write{put(-1, 1, 1)}}, {Seq: 1, Value: true, Writes: []api.Write{{Key: key(0, 1), V: 1, Dead: true}}},
 	}

@@ -248,6 +248,16 @@ func TestScanRefuses(t *testing.T) {
 			t.Error(name, list, err)
 		}
 	}
+	for n, want := range map[int]int{4096: 1, 4097: 0} {
+		s := set(t, 100)
+		frame := append([]byte{byte(n) | 0x80, 0x20}, text(n, 1)...)
+		for i, part := range slab.Parts(frame) {
+			seal(t, s, i, 100, 1, min(i+1, 2), part)
+		}
+		if list, err := stream.Scan(s, 0, 1, 0); err != nil || len(list) != want {
+			t.Error("long", n, len(list), err)
+		}
+	}
 	s := set(t, 2)
 	seal(t, s, 0, 2, 1, 1, []byte{1, 7})
 	seal(t, s, 1, 2, 1, 1, long[:50])
