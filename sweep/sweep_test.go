@@ -42,7 +42,7 @@ func TestNil(t *testing.T) {
 	if x.Done() {
 		t.Error("done too early")
 	}
-	x.Before(put(0, 1, 1), put(9, 1, 1))
+	x.Before(put(0, 1, 1))
 	if b, err := x.Text(); b != nil || !errors.Is(err, api.ErrState) {
 		t.Error(err)
 	}
