@@ -117,18 +117,18 @@ func (e *Engine) finish() error {
 	if err != nil {
 		return err
 	}
-	next := e.next(check.base, text, e.Heads)
-	if !e.holds(next) {
-		e.readOnly = true
-		return api.ErrFull
-	}
+	// The log can't be cut off ahead of what isn't sure.
 	if err := e.dies(e.log.Sync()); err != nil {
 		return err
 	}
-	// Only what is sure has heads.
-	next.Heads, err = e.log.Heads(check.base)
+	heads, err := e.log.Heads(check.base)
 	if err != nil {
 		return err
+	}
+	next := e.next(check.base, text, heads)
+	if !e.holds(next) {
+		e.readOnly = true
+		return api.ErrFull
 	}
 	if err := e.dies(e.save(next, text)); err != nil {
 		return err
