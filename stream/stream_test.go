@@ -46,6 +46,16 @@ func is(t *testing.T, what string, got, want error) {
 	}
 }
 
+// refused asks that a record is refused, and nothing else is answered.
+func refused(t *testing.T, what string, x *stream.Stream, b []byte, want error) {
+	t.Helper()
+	at, err := x.Append(b)
+	is(t, what, err, want)
+	if at != 0 {
+		t.Error(what, at)
+	}
+}
+
 func numbers(t *testing.T, x *stream.Stream, head, tail, sure, room int) {
 	t.Helper()
 	if x.Head() != head || x.Tail() != tail || x.Sure() != sure || x.Room() != room {
@@ -74,8 +84,7 @@ func TestNewAndNil(t *testing.T) {
 	}
 	numbers(t, made(t, s, 1, 65535, 1<<32-2), 1<<32-2, 1<<32-2, 1<<32-2, 4)
 	var x *stream.Stream
-	_, err := x.Append(nil)
-	is(t, "append", err, api.ErrDown)
+	refused(t, "append", x, nil, api.ErrDown)
 	is(t, "flush", x.Flush(), api.ErrDown)
 	is(t, "truncate", x.Truncate(0), api.ErrDown)
 	numbers(t, x, 0, 0, 0, 0)
@@ -129,8 +138,7 @@ func TestLayout(t *testing.T) {
 func TestFull(t *testing.T) {
 	s := set(t, 90, 3)
 	x := made(t, s, 0, 1, 0)
-	_, err := x.Append(text(4097, 1))
-	is(t, "long", err, api.ErrRange)
+	refused(t, "long", x, text(4097, 1), api.ErrRange)
 	if at, err := x.Append(text(4096, 1)); at != 82 || err != nil {
 		t.Error(at, err)
 	}
@@ -139,21 +147,17 @@ func TestFull(t *testing.T) {
 		t.Error("long record", err)
 	}
 	x = made(t, s, 1, 1, 0)
-	_, err = x.Append(text(149, 1))
-	is(t, "too large", err, api.ErrFull)
-	_, err = x.Append(text(4097, 1))
-	is(t, "range first", err, api.ErrRange)
+	refused(t, "too large", x, text(149, 1), api.ErrFull)
+	refused(t, "range first", x, text(4097, 1), api.ErrRange)
 	if at, err := x.Append(text(50, 1)); at != 2 || err != nil {
 		t.Error(at, err)
 	}
-	_, err = x.Append(text(50, 1))
-	is(t, "full", err, api.ErrFull)
+	refused(t, "full", x, text(50, 1), api.ErrFull)
 	numbers(t, x, 0, 2, 0, 1)
 	if _, err = x.Append(text(49, 2)); err != nil {
 		t.Error(err)
 	}
-	_, err = x.Append(nil)
-	is(t, "full", err, api.ErrFull)
+	refused(t, "full", x, nil, api.ErrFull)
 	x.Flush()
 	x.Truncate(2)
 	if at, err := x.Append(text(99, 3)); at != 5 || err != nil {
@@ -165,13 +169,11 @@ func TestFull(t *testing.T) {
 		t.Error("round", list)
 	}
 	last := made(t, s, 0, 65535, 1<<32-4)
-	_, err = last.Append(text(150, 1))
-	is(t, "above the last position", err, api.ErrFull)
+	refused(t, "above the last position", last, text(150, 1), api.ErrFull)
 	if at, err := last.Append(text(140, 1)); at != 1<<32-1 || err != nil {
 		t.Error(at, err)
 	}
-	_, err = last.Append(nil)
-	is(t, "no position any more", err, api.ErrFull)
+	refused(t, "no position any more", last, nil, api.ErrFull)
 	list, err = stream.Scan(s, 0, 65535, 1<<32-4)
 	if err != nil || len(list) != 1 || list[0].End != 1<<32-1 {
 		t.Error("last", list, err)
@@ -184,18 +186,15 @@ func TestPower(t *testing.T) {
 	x := made(t, s, 0, 1, 0)
 	x.Append(text(10, 1))
 	s.Arm(1)
-	_, err := x.Append(text(60, 1))
-	is(t, "power goes", err, api.ErrDown)
+	refused(t, "power goes", x, text(60, 1), api.ErrDown)
 	numbers(t, x, 0, 1, 0, 8)
-	_, err = stream.Scan(s, 0, 1, 0)
+	_, err := stream.Scan(s, 0, 1, 0)
 	is(t, "scan", err, api.ErrDown)
 	_, err = stream.Scan(s, 0, 0, 0)
 	is(t, "scan", err, api.ErrRange)
 	s.Crash()
-	_, err = x.Append(text(1, 1))
-	is(t, "stuck", err, api.ErrDown)
-	_, err = x.Append(text(5000, 1))
-	is(t, "stuck first", err, api.ErrDown)
+	refused(t, "stuck", x, text(1, 1), api.ErrDown)
+	refused(t, "stuck first", x, text(5000, 1), api.ErrDown)
 	is(t, "stuck", x.Flush(), api.ErrDown)
 	is(t, "truncate", x.Truncate(1), api.ErrRange)
 	is(t, "truncate", x.Truncate(0), nil)
